@@ -9,7 +9,7 @@ import (
 
 // roomy is v in lists that all have spare room, in which something stands.
 func roomy(v api.Value) api.Value {
-	if v.List != nil {
+	if v.Kind == api.KindList {
 		l := make([]api.Value, 0, len(v.List)+3)
 		for _, x := range v.List {
 			l = append(l, roomy(x))
@@ -17,7 +17,7 @@ func roomy(v api.Value) api.Value {
 		fill(l[len(l):cap(l)])
 		v.List = l
 	}
-	if v.Doc != nil {
+	if v.Kind == api.KindDoc {
 		l := make([]api.Field, 0, len(v.Doc)+3)
 		for _, f := range v.Doc {
 			l = append(l, of(f.Name, roomy(f.Value)))
@@ -97,7 +97,7 @@ func sample() api.Value {
 func TestNothingShared(t *testing.T) {
 	v, x := roomy(sample()), roomy(list(num(1), doc(of("k", list(num(2))))))
 	row := make([]api.Value, 0, 20)
-	row = append(row, list(num(2), list()), v, x, doc(of("a", list())), list(), doc(), num(4), v)
+	row = append(row, roomy(list(num(2), list())), v, x, roomy(doc(of("a", list()))), roomy(list()), roomy(doc()), num(4), v)
 	fill(row[len(row):cap(row)])
 	one := row[:1]
 	args := []api.Value{{List: row}, v, x}

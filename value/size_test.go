@@ -108,6 +108,8 @@ func TestSizeAtLimit(t *testing.T) {
 		{doc(of(strings.Repeat("n", api.MaxDoc-7), null())), api.MaxDoc},
 		{doc(of(strings.Repeat("n", api.MaxDoc-6), null())), api.MaxDoc + 1},
 		{doc(of(strings.Repeat("n", api.MaxDoc-6), null()), of("b", null())), api.MaxDoc + 1},
+		{doc(of(strings.Repeat("n", api.MaxDoc-7), null()), of("b", null())), api.MaxDoc + 1},
+		{list(txt(strings.Repeat("x", api.MaxDoc-5-3-5)), null()), api.MaxDoc + 1},
 		{nulls(1 << 17), api.MaxDoc + 1},
 		{named(1 << 15), api.MaxDoc + 1},
 		{nest(null(), 1<<16-1, false), api.MaxDoc + 1},
