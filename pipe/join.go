@@ -5,6 +5,7 @@ import (
 
 	"coffret/api"
 	"coffret/path"
+	"coffret/shown"
 	"coffret/value"
 )
 
@@ -66,7 +67,7 @@ type places struct {
 func placesOf(docs []api.Value, parts []string) *places {
 	t := &places{table[api.Value, []int]{order: value.Compare}}
 	for i, d := range docs {
-		for v := range shown(d, parts) {
+		for v := range shown.In(d, parts) {
 			at, _ := t.at(v)
 			if n := len(*at); n == 0 || (*at)[n-1] != i {
 				*at = append(*at, i)
@@ -80,7 +81,7 @@ func placesOf(docs []api.Value, parts []string) *places {
 func (t *places) shownBy(d api.Value, parts []string) []int {
 	var out []int
 	asked := table[api.Value, struct{}]{order: value.Compare} // a list may have one value again and again
-	for v := range shown(d, parts) {
+	for v := range shown.In(d, parts) {
 		if _, twice := asked.at(v); twice {
 			continue
 		}

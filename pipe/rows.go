@@ -4,6 +4,7 @@ import (
 	"slices"
 
 	"coffret/api"
+	"coffret/shown"
 	"coffret/value"
 )
 
@@ -69,7 +70,7 @@ func (l sort) run(docs []api.Value, _ source) ([]api.Value, api.Errno) {
 func (l sort) keyed(d api.Value) keyed {
 	row := keyed{doc: d}
 	for _, s := range l {
-		row.keys = append(row.keys, outermost(shown(d, s.parts), s.side))
+		row.keys = append(row.keys, outermost(shown.In(d, s.parts), s.side))
 	}
 	return row
 }

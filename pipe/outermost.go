@@ -4,32 +4,8 @@ import (
 	"iter"
 
 	"coffret/api"
-	"coffret/path"
 	"coffret/value"
 )
-
-// shown goes through what a path shows in a document.
-func shown(d api.Value, parts []string) iter.Seq[api.Value] {
-	return func(yield func(api.Value) bool) {
-		reached := path.Reach(d, parts)
-		if len(reached) == 0 {
-			yield(null())
-		}
-		for _, v := range reached {
-			if !yield(orNull(v)) {
-				return
-			}
-			if v.Kind != api.KindList {
-				continue
-			}
-			for _, x := range v.List {
-				if !yield(orNull(x)) {
-					return
-				}
-			}
-		}
-	}
-}
 
 // outermost is the first value that stands on one side of all others: -1 ahead of them, 1 behind; missing, if there is none.
 func outermost(l iter.Seq[api.Value], side int) api.Value {
